@@ -62,7 +62,9 @@ func TestBounds(t *testing.T) {
 	wantAllBounds(t, "normal", all["normal"], "0", "12", func(x *big.Float) *big.Float { return half(normal(x)) })
 	wantAllBounds(t, "root", all["root"], "0", "100", root)
 	wantAllBounds(t, "of", all["of"], "0", "999999999999", func(x *big.Float) *big.Float { return x })
-	wantAllBounds(t, "halfPi", all["halfPi"], "0", "1", func(*big.Float) *big.Float { return over(circle(), small(2)) })
+	for places := range 100 {
+		wantBounds(t, "halfPi", all["halfPi"], places, rat("1"), over(circle(), small(2)))
+	}
 	for freedom := 1; freedom <= 20; freedom++ {
 		wantAllBounds(t, "chi", special.ChiBounds(freedom), "0", "100", func(x *big.Float) *big.Float { return minus(small(1), chi(x, freedom)) })
 	}
