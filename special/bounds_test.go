@@ -20,7 +20,7 @@ func wantBounds(t *testing.T, call string, f special.Bounded, places int, x *big
 		return
 	}
 	// The value has an error itself, which matters where the bounds are exact.
-	error := step(100)
+	error := step(150)
 	lower.Sub(lower.Mul(lower, step(places)), error)
 	upper.Add(upper.Mul(upper, step(places)), error)
 	if lower.Cmp(exact(v)) > 0 || upper.Cmp(exact(v)) < 0 {
